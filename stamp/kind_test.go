@@ -1,6 +1,7 @@
 package stamp_test
 
 import (
+	"maps"
 	"math/rand"
 	"slices"
 	"strings"
@@ -162,6 +163,8 @@ func TestP3_6_Pictures(t *testing.T) {
 		"0100 0001 0010 1000": "p4g",
 		"010 111 010":         "p4m",
 		"000 010 000":         "p4m",
+		// The glides and half turns of pgg make it, but its colours have mirrors too.
+		"257475 106360 360106 475257 360106 106360": "cmm",
 	} {
 		if got, e := stamp.Kind(drawn(picture)); e != api.OK || got != want {
 			t.Errorf("Kind(%s): %s, %v, want %s", picture, got, e, want)
@@ -188,11 +191,25 @@ func mixed(r *rand.Rand, w, h int, g []stamp.Move) stamp.Stamp {
 	return s
 }
 
+// exactly returns a mixed stamp that the moves of a group leave as it is, and no other moves. Where the colours do not suffice to keep all cells apart, a draw may have more symmetries by chance: it is passed over.
+func exactly(t *testing.T, r *rand.Rand, w, h int, g []stamp.Move) stamp.Stamp {
+	t.Helper()
+	for range 1000 {
+		s := mixed(r, w, h, g)
+		changes := func(m stamp.Move) bool { return !same(applyOf(m, s), s) }
+		if keepers := slices.DeleteFunc(movesOf(w, h), changes); slices.Equal(keepers, g) {
+			return s
+		}
+	}
+	t.Fatalf("no stamp has exactly the symmetries %v", g)
+	return stamp.Stamp{}
+}
+
 // TestP3_6_Groups makes stamps without other symmetries than those of the group that some moves make.
 func TestP3_6_Groups(t *testing.T) {
 	r := rand.New(rand.NewSource(40))
 	flip, across, half := stamp.Move{Flip: true}, stamp.Move{Flip: true, Turn: 2}, stamp.Move{Turn: 2}
-	for want, makers := range map[string][]stamp.Move{
+	kinds := map[string][]stamp.Move{
 		"p1":  {},
 		"p2":  {half},
 		"pm":  {flip},
@@ -205,11 +222,13 @@ func TestP3_6_Groups(t *testing.T) {
 		"p4":  {{Turn: 1}},
 		"p4g": {{Turn: 1}, {DX: 3, DY: 3, Flip: true}},
 		"p4m": {{Turn: 1}, flip},
-	} {
-		g := closeOf(6, 6, makers)
-		for range 5 {
-			s := mixed(r, 6, 6, g)
-			if got, e := stamp.Kind(s); e != api.OK || got != want {
+	}
+	// In order, so that each run draws the same stamps.
+	for _, want := range slices.Sorted(maps.Keys(kinds)) {
+		g := closeOf(6, 6, kinds[want])
+		for range 50 {
+			s := exactly(t, r, 6, 6, g)
+			if got, e := stamp.Kind(s); e != api.OK || got != want || kindOf(s) != want {
 				t.Errorf("Kind(%v): %s, %v, want %s", s, got, e, want)
 			}
 		}
@@ -221,7 +240,7 @@ func TestP3_6_Diagonals(t *testing.T) {
 	r := rand.New(rand.NewSource(42))
 	corner := stamp.Move{DX: 3, DY: 3}
 	rising, falling, half := stamp.Move{Flip: true, Turn: 1}, stamp.Move{Flip: true, Turn: 3}, stamp.Move{Turn: 2}
-	for want, lists := range map[string][][]stamp.Move{
+	kinds := map[string][][]stamp.Move{
 		"cm":  {{rising}, {falling}, {{DX: 2, DY: 2, Flip: true, Turn: 1}}},
 		"cmm": {{rising, falling}, {rising, {DX: 1, DY: 3, Turn: 2}}},
 		"pm":  {{rising, corner}, {falling, corner}},
@@ -230,10 +249,12 @@ func TestP3_6_Diagonals(t *testing.T) {
 		"pmg": {{{DX: 3, Flip: true, Turn: 1}, {DX: 1, DY: 2, Turn: 2}, corner}},
 		"pgg": {{{DX: 3, Flip: true, Turn: 1}, half, corner}},
 		"p2":  {{half, corner}},
-	} {
-		for _, makers := range lists {
-			for range 5 {
-				s := mixed(r, 6, 6, closeOf(6, 6, makers))
+	}
+	for _, want := range slices.Sorted(maps.Keys(kinds)) {
+		for _, makers := range kinds[want] {
+			g := closeOf(6, 6, makers)
+			for range 20 {
+				s := exactly(t, r, 6, 6, g)
 				if got, e := stamp.Kind(s); e != api.OK || got != want || kindOf(s) != want {
 					t.Errorf("Kind(%v) with %v: %s, %v, want %s", s, makers, got, e, want)
 				}
