@@ -130,12 +130,17 @@ func depth(e design.Expr) int {
 	return deepest + 1
 }
 
-// balanced returns a tree of pairs with so many leaves.
-func balanced(leaves int, leaf design.Expr) design.Expr {
+// joined returns a tree with so many leaves, in which two parts are joined again and again.
+func joined(leaves int, leaf design.Expr, join func(l, r design.Expr) design.Expr) design.Expr {
 	if leaves == 1 {
 		return leaf
 	}
-	return pair(balanced(leaves/2, leaf), balanced(leaves-leaves/2, leaf))
+	return join(joined(leaves/2, leaf, join), joined(leaves-leaves/2, leaf, join))
+}
+
+// balanced returns a tree of pairs with so many leaves.
+func balanced(leaves int, leaf design.Expr) design.Expr {
+	return joined(leaves, leaf, pair)
 }
 
 // chain returns something applied to an expression again and again.
@@ -425,6 +430,9 @@ func large() []design.Expr {
 	return []design.Expr{
 		fn("x", balanced(2500, num(7))), // 5000 nodes
 		balanced(2500, num(7)),
+		// Nothing has longer code: 9997 instructions.
+		joined(2500, num(7), func(l, r design.Expr) design.Expr { return rec("f", "x", l, r) }),
+		joined(2500, num(7), func(l, r design.Expr) design.Expr { return let("x", l, r) }),
 		chain(499, truth(true), negated),
 		fn("x", chain(498, x, func(e design.Expr) design.Expr { return apply(e, x) })),
 		chain(499, num(1), func(e design.Expr) design.Expr { return fn("x", e) }),
